@@ -4,6 +4,8 @@ import (
 	"math"
 	"slices"
 	"testing"
+
+	"loop.example/g00123/impl"
 )
 
 // edgeNumbers are the numbers at which a function of numbers may go wrong;
@@ -43,9 +45,37 @@ func (d *dice) edges(most int) []int {
 	return c
 }
 
+// formula has at most that many clauses of at most width literals; now and then a variable has both.
+func (d *dice) formula(n int, clauses int, width int) impl.Cnf {
+	f := impl.Cnf{N: n}
+	for range d.below(clauses + 1) {
+		if n == 0 {
+			f.Clauses = append(f.Clauses, nil)
+			continue
+		}
+		f.Clauses = append(f.Clauses, d.clause(width, n))
+	}
+	return f
+}
+
+func (d *dice) assignment(n int) []int {
+	a := make([]int, n)
+	for i := range a {
+		a[i] = d.below(2)
+	}
+	return a
+}
+
 const spare = 60
 
-// guarded is a list with spare room behind it that nobody may write into.
+// argument is something handed to the program that nobody may write into.
+type argument interface {
+	check(t *testing.T, what string)
+	spoil()
+	mend()
+}
+
+// guarded is a list with spare room behind it.
 type guarded struct {
 	list  []int
 	whole []int
@@ -68,29 +98,115 @@ func (g guarded) check(t *testing.T, what string) {
 	}
 }
 
+func (g guarded) spoil() {
+	for i := range g.whole {
+		g.whole[i] = 9000 + i
+	}
+}
+
+func (g guarded) mend() { copy(g.whole, g.was) }
+
+// guardedLists is a list of lists with spare room behind it and behind each of them.
+type guardedLists struct {
+	lists [][]int
+	whole [][]int
+	parts []guarded
+}
+
+func guardLists(lists [][]int) guardedLists {
+	g := guardedLists{whole: make([][]int, len(lists)+spare)}
+	for i := range g.whole {
+		part := guard([]int{7000 + i})
+		if i < len(lists) {
+			part = guard(lists[i])
+		}
+		g.parts = append(g.parts, part)
+		g.whole[i] = part.list
+	}
+	g.lists = g.whole[:len(lists)]
+	return g
+}
+
+func (g guardedLists) check(t *testing.T, what string) {
+	t.Helper()
+	for i, part := range g.parts {
+		part.check(t, what)
+		if !sameMemory(g.whole[i], part.list) {
+			t.Fatalf("%s wrote into its argument at list %d", what, i)
+		}
+	}
+}
+
+func (g guardedLists) spoil() {
+	for i, part := range g.parts {
+		part.spoil()
+		g.whole[i] = []int{9000 + i}
+	}
+}
+
+func (g guardedLists) mend() {
+	for i, part := range g.parts {
+		part.mend()
+		g.whole[i] = part.list
+	}
+}
+
+// sameMemory holds two lists against each other by where they stand; every guarded one has room.
+func sameMemory(a []int, b []int) bool {
+	return len(a) == len(b) && cap(a) == cap(b) && &a[:1][0] == &b[:1][0]
+}
+
+type guardedCnf struct {
+	guardedLists
+	f impl.Cnf
+}
+
+func guardCnf(f impl.Cnf) guardedCnf {
+	g := guardLists(f.Clauses)
+	return guardedCnf{g, impl.Cnf{N: f.N, Clauses: g.lists}}
+}
+
 // checkApart writes all over an answer and then all over its arguments: neither may be seen in the other.
-func checkApart(t *testing.T, what string, answer []int, args ...guarded) {
+func checkApart(t *testing.T, what string, answer []int, args ...argument) {
+	t.Helper()
+	checkApartLists(t, what, [][]int{answer}, args...)
+}
+
+// checkApartLists also asks that no list of the answer stands in another one, nor in the room behind it.
+func checkApartLists(t *testing.T, what string, answer [][]int, args ...argument) {
 	t.Helper()
 	for _, g := range args {
 		g.check(t, what)
 	}
-	answer = answer[:cap(answer)]
-	for i := range answer {
-		answer[i] = -9000 - i
+	parts := slices.Clone(answer)
+	for n, part := range parts {
+		parts[n] = part[:cap(part)]
+		for i := range parts[n] {
+			parts[n][i] = -9000 - 1000*n - i
+		}
+	}
+	outer := answer[:cap(answer)]
+	for n := range outer {
+		outer[n] = []int{-n}
 	}
 	for _, g := range args {
 		g.check(t, what+", written over its answer,")
-		for i := range g.whole {
-			g.whole[i] = 9000 + i
+		g.spoil()
+	}
+	for n, part := range parts {
+		for i, x := range part {
+			if x != -9000-1000*n-i {
+				t.Fatalf("%s answers memory of an argument or of another list", what)
+			}
 		}
 	}
-	for i, x := range answer {
-		if x != -9000-i {
-			t.Fatalf("%s answers memory of its argument", what)
+	for n, list := range outer {
+		if !slices.Equal(list, []int{-n}) {
+			t.Fatalf("%s answers the list of lists of an argument", what)
 		}
 	}
 	for _, g := range args {
-		copy(g.whole, g.was)
+		g.mend()
 	}
 }
 
@@ -113,4 +229,15 @@ func allLiterals() []int {
 		out = append(out, v, -v)
 	}
 	return out
+}
+
+func checkCnf(t *testing.T, what string, got impl.Cnf, n int, clauses ...[]int) {
+	t.Helper()
+	if got.N != n || !sameLists(got.Clauses, clauses) {
+		t.Errorf("%s: %v, want %d and %v", what, got, n, clauses)
+	}
+}
+
+func sameLists(a [][]int, b [][]int) bool {
+	return slices.EqualFunc(a, b, func(x, y []int) bool { return slices.Equal(x, y) })
 }
