@@ -63,6 +63,11 @@ type litSet uint64
 // positives has every literal that is not negative: the even places.
 const positives litSet = 0x5555_5555_5555
 
+// variablesTo has the positive literals of the variables 1 .. n.
+func variablesTo(n int) litSet {
+	return positives & (1<<(2*n) - 1)
+}
+
 // litsOf passes over numbers that are no literals; who has to care for those
 // looks at the list itself.
 func litsOf(list []int) litSet {
@@ -79,20 +84,33 @@ func (s litSet) with(x lit) litSet {
 	return s | 1<<x.place()
 }
 
+func (s litSet) without(x lit) litSet {
+	return s &^ (1 << x.place())
+}
+
 func (s litSet) has(x lit) bool {
 	return s>>x.place()&1 == 1
 }
 
-// clashes looks at all variables at once: the negative literal stands one
-// place above the positive one.
+// first is for a set that has a literal.
+func (s litSet) first() lit {
+	return litAt(bits.TrailingZeros64(uint64(s)))
+}
+
+// opposites turns all literals at once: the negative one stands one place
+// above the positive one.
+func (s litSet) opposites() litSet {
+	return (s&positives)<<1 | s>>1&positives
+}
+
 func (s litSet) clashes() bool {
-	return s&(s>>1)&positives != 0
+	return s&s.opposites() != 0
 }
 
 func (s litSet) list() []int {
 	out := make([]int, 0, bits.OnesCount64(uint64(s)))
 	for ; s != 0; s &= s - 1 {
-		out = append(out, int(litAt(bits.TrailingZeros64(uint64(s)))))
+		out = append(out, int(s.first()))
 	}
 	return out
 }

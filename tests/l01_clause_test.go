@@ -12,7 +12,7 @@ import (
 )
 
 func isLiteral(x int) bool {
-	return slices.Contains(allLiterals(), x)
+	return x >= -24 && x <= 24 && x != 0
 }
 
 func isClause(c []int) bool {
