@@ -55,6 +55,11 @@ func forceOf(f impl.Cnf, a []int) ([]int, bool) {
 	if !isFormula(f) || !isLiteralsOf(a, f.N) {
 		return nil, false
 	}
+	return forcedTo(f, a)
+}
+
+// forcedTo takes any number of clauses.
+func forcedTo(f impl.Cnf, a []int) ([]int, bool) {
 	out := slices.Clone(a)
 	for {
 		x, ok := firstSingle(f, out)
