@@ -428,18 +428,24 @@ func checkAssign(t *testing.T, s string) {
 	}
 }
 
+// assignOf reads an assignment by the form of its text.
+func assignOf(s string, n int) ([]int, bool) {
+	if !clauseTextForm.MatchString(s) {
+		return nil, false
+	}
+	var a []int
+	for _, x := range numbersOf(s[:len(s)-1]) {
+		a = append(a, max(0, min(1, x)))
+	}
+	if len(a) != n || assignmentText(a) != s {
+		return nil, false
+	}
+	return a, true
+}
+
 func checkAssignOf(t *testing.T, s string, n int) {
 	t.Helper()
-	var want []int
-	if clauseTextForm.MatchString(s) {
-		for _, x := range numbersOf(s[:len(s)-1]) {
-			want = append(want, max(0, min(1, x)))
-		}
-	}
-	wantOk := s != "" && len(want) == n && assignmentText(want) == s
-	if !wantOk {
-		want = nil
-	}
+	want, wantOk := assignOf(s, n)
 	a, ok := impl.ReadAssign(s, n)
 	if ok != wantOk || !slices.Equal(a, want) {
 		t.Errorf("ReadAssign of %q and %d: %v %v, want %v %v", s, n, a, ok, want, wantOk)
