@@ -503,11 +503,14 @@ func TestWhatVerifiesTellsTheTruth(t *testing.T) {
 	}
 }
 
-// certTextOf and readOf go by the form of the text; readOf takes no part that is too long to have been written.
+// certTextOf and readOf go by the form of the text; readOf takes no part that is too long to have been written, nor the empty one that stands for all of these.
 func certTextOf(c impl.Cert) string {
 	part := func(s string) string {
-		if s == "" || len(s) > 60000 {
+		switch {
+		case s == "":
 			return "-"
+		case len(s) > 60000:
+			return ""
 		}
 		return hex.EncodeToString([]byte(s))
 	}
@@ -592,14 +595,52 @@ func TestCertComesBack(t *testing.T) {
 	}
 }
 
-// What HexText has no text of is told as none.
+// Only where there is no part does - stand in its place: one that is too long is there, and its HexText is the empty text.
 func TestCertTextOfLongParts(t *testing.T) {
 	long := strings.Repeat("d", 60001)
-	for _, c := range []impl.Cert{{Digest: long}, {Mark: long}, {Digest: long, Mark: "m", Sat: true, Body: "b"}, {Digest: "d", Mark: long + long, Body: long}} {
-		if got := impl.CertText(c); got != certTextOf(c) {
-			t.Errorf("CertText of long parts: %.100q, want %.100q", got, certTextOf(c))
+	full := long[:60000]
+	fullDigits := strings.Repeat("64", 60000)
+	for _, k := range []struct {
+		c    impl.Cert
+		want string
+	}{
+		{impl.Cert{Digest: long}, " unsat -\n"},
+		{impl.Cert{Mark: long}, "- unsat \n"},
+		{impl.Cert{Sat: true, Body: "1 0", Mark: long}, "- sat \n1 0"},
+		{impl.Cert{Digest: long, Mark: long}, " unsat \n"},
+		{impl.Cert{Digest: long, Mark: "m", Sat: true, Body: "b"}, " sat 6d\nb"},
+		{impl.Cert{Digest: "d", Mark: long + long, Body: long}, "64 unsat \n" + long},
+		{impl.Cert{Digest: strings.Repeat("\x00", 60001), Mark: strings.Repeat("-", 60001)}, " unsat \n"},
+		{impl.Cert{Digest: full, Mark: long}, fullDigits + " unsat \n"},
+		{impl.Cert{Digest: long, Mark: full, Sat: true}, " sat " + fullDigits + "\n"},
+	} {
+		got := impl.CertText(k.c)
+		if got != k.want || got != certTextOf(k.c) {
+			t.Errorf("CertText of parts of %d and %d bytes: %.100q, want %.100q", len(k.c.Digest), len(k.c.Mark), got, k.want)
+		}
+		// Each longer part has this text as well, so that it is the text of no one certificate.
+		if c, ok := impl.ReadCert(k.want); ok || c != (impl.Cert{}) {
+			t.Errorf("ReadCert of %.100q: %s %v", k.want, shown(c), ok)
 		}
 	}
+	for _, k := range []struct {
+		c    impl.Cert
+		want string
+	}{
+		{impl.Cert{Digest: full}, fullDigits + " unsat -\n"},
+		{impl.Cert{Mark: full, Sat: true, Body: long}, "- sat " + fullDigits + "\n" + long},
+		{impl.Cert{Digest: full, Mark: full}, fullDigits + " unsat " + fullDigits + "\n"},
+	} {
+		if got := impl.CertText(k.c); got != k.want {
+			t.Errorf("CertText of parts of %d and %d bytes: %.100q", len(k.c.Digest), len(k.c.Mark), got)
+		}
+		if c, ok := impl.ReadCert(k.want); !ok || c != k.c {
+			t.Errorf("ReadCert of %.100q: %s %v", k.want, shown(c), ok)
+		}
+	}
+}
+
+func TestReadCertOfLongTexts(t *testing.T) {
 	digits := strings.Repeat("0f", 60000)
 	for _, s := range []string{digits + " sat -\n", "- sat " + digits + "\nx", digits + "00 sat -\n", "- sat " + digits + "00\nx", digits + "0 sat -\n", "- sat -\n" + digits + "00"} {
 		checkCertText(t, s)
@@ -615,7 +656,7 @@ func TestReadCertRefuses(t *testing.T) {
 		"- Sat -\n", "- SAT -\n", "- unsatt -\n", "- sa -\n", "-  -\n", "- - -\n", "- true -\n", "- 1 -\n", "- sat\t-\n", "- satunsat -\n", "- unsat sat -\n", "- satsat -\n",
 		"- sat - \n", " - sat -\n", "-  sat -\n", "- sat  -\n", "-sat -\n", "- sat-\n", "-sat-\n", "- -\n", "- sat\n", "sat -\n", "- sat - -\n", "- sat -\r\n", "- sat -\x00\n",
 		"0 sat -\n", "- sat 0\n", "000 sat -\n", "- sat abc\n", "AB sat -\n", "- sat aB\n", "0g sat -\n", "- sat x0\n", "0x00 sat -\n", "- sat +1\n", "-- sat -\n", "- sat --\n", "-00 sat -\n", "- sat 00-\n", "-0 sat -\n", "- sat -1\n",
-		" sat -\n", "- sat \n", " sat \n", " unsat \nq", "00 sat \n", " sat 00\n", "\xff sat -\n", "- sat \xc3\xa9\n", "00 \xff sat -\n", "\u00a0 sat -\n", "-\u00a0sat -\n",
+		" sat -\n", " unsat -\n", "- sat \n", "- sat \n1 0", " sat \n", " unsat \nq", "00 sat \n", " sat 00\n", "\xff sat -\n", "- sat \xc3\xa9\n", "00 \xff sat -\n", "\u00a0 sat -\n", "-\u00a0sat -\n",
 	} {
 		if c, ok := impl.ReadCert(s); ok || c != (impl.Cert{}) {
 			t.Errorf("ReadCert of %q: %s %v", s, shown(c), ok)
