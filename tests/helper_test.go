@@ -151,9 +151,62 @@ func (g guardedLists) mend() {
 	}
 }
 
-// sameMemory holds two lists against each other by where they stand; every guarded one has room.
-func sameMemory(a []int, b []int) bool {
-	return len(a) == len(b) && cap(a) == cap(b) && &a[:1][0] == &b[:1][0]
+// sameMemory holds two lists against each other by where they stand; lists without any room stand nowhere.
+func sameMemory[T any](a []T, b []T) bool {
+	if len(a) != len(b) || cap(a) != cap(b) {
+		return false
+	}
+	return cap(a) == 0 || &a[:1][0] == &b[:1][0]
+}
+
+// guardedOf is a list of anything that can be compared, with spare room behind it.
+type guardedOf[T comparable] struct {
+	list  []T
+	whole []T
+	was   []T
+	other T
+}
+
+// guardOf has the other one in the spare room, and everywhere when it is spoiled.
+func guardOf[T comparable](list []T, other T) guardedOf[T] {
+	whole := append(slices.Clone(list), slices.Repeat([]T{other}, spare)...)
+	return guardedOf[T]{whole[:len(list)], whole, slices.Clone(whole), other}
+}
+
+func (g guardedOf[T]) check(t *testing.T, what string) {
+	t.Helper()
+	if !slices.Equal(g.whole, g.was) {
+		t.Fatalf("%s wrote into its argument %v", what, g.was[:len(g.list)])
+	}
+}
+
+func (g guardedOf[T]) spoil() {
+	for i := range g.whole {
+		g.whole[i] = g.other
+	}
+}
+
+func (g guardedOf[T]) mend() { copy(g.whole, g.was) }
+
+// checkApartOf writes all over an answer that is no list of numbers, and all over its arguments: neither may be seen in the other.
+func checkApartOf[T comparable](t *testing.T, what string, answer []T, other T, args ...argument) {
+	t.Helper()
+	answer = answer[:cap(answer)]
+	for i := range answer {
+		answer[i] = other
+	}
+	for _, g := range args {
+		g.check(t, what+", written over its answer,")
+		g.spoil()
+	}
+	for _, one := range answer {
+		if one != other {
+			t.Fatalf("%s answers memory of an argument", what)
+		}
+	}
+	for _, g := range args {
+		g.mend()
+	}
 }
 
 type guardedCnf struct {
