@@ -1364,17 +1364,20 @@ func TestHallStartWritesIntoNothing(t *testing.T) {
 	}
 }
 
+// hallOfOneList has that one list wherever a list of numbers stands.
+func hallOfOneList(list []int, most int, room int) impl.Hall {
+	one := impl.Work{F: impl.Cnf{N: 2, Clauses: [][]int{list, list}}, Values: list, Left: 3}
+	some := []impl.Work{one, one, {F: one.F, Values: list, State: 1}}
+	entries := []impl.Known{{Digest: digestOf(aWork(0, 0).F), Values: list}, {Digest: "b", Values: list}}
+	return hallOf(impl.Cache{Room: room, Entries: entries}, tenantOf("a", 2, most, some...), tenantOf("b", 2, most, some...))
+}
+
 // One list told at several places is several lists in an answer.
 func TestHallsOfOneListToldOften(t *testing.T) {
 	shared := guard([]int{1})
-	one := impl.Work{F: impl.Cnf{N: 2, Clauses: [][]int{shared.list, shared.list}}, Values: shared.list, Left: 3}
-	some := []impl.Work{one, one, {F: one.F, Values: shared.list, State: 1}}
 	for _, most := range []int{2, 5, 1} {
 		for _, room := range []int{2, 5, 1} {
-			h := impl.Hall{
-				Tenants: []impl.Tenant{tenantOf("a", 2, most, some...), tenantOf("b", 2, most, some...)},
-				Cache:   impl.Cache{Room: room, Entries: []impl.Known{{Digest: digestOf(aWork(0, 0).F), Values: shared.list}, {Digest: "b", Values: shared.list}}},
-			}
+			h := hallOfOneList(shared.list, most, room)
 			for _, op := range []impl.HallOp{{Text: oneText}, {Text: "p cnf 1 0\n"}, {Kind: 1}, {Kind: 2}, {Kind: 3, N: 2}, {Kind: 4}, {Kind: 5}, {Text: "q"}} {
 				after, _ := impl.HallDo(h, op)
 				checkApartHall(t, "HallDo of one list told often", after, shared)
