@@ -398,11 +398,14 @@ func TestPureMayBeTaken(t *testing.T) {
 // Promise 4: a clause in order is the same clause: each of its literals once, true where it was, in order already.
 func TestClauseInOrderIsTheSame(t *testing.T) {
 	d := &dice{45}
+	clauses := [][]int{nil, {5, -5}, {-2, 2, -2}, repeated(-3, 48), append(repeated(4, 47), -1), opposites(upTo(5)), append(opposites(upTo(5)), upTo(5)...)}
 	for range 800 {
-		c := d.clause(7, 5)
+		clauses = append(clauses, d.clause(7, 5), d.clause(48, 5))
+	}
+	for _, c := range clauses {
 		s, _ := impl.ClauseSort(c)
 		for i, x := range s {
-			if slices.Contains(s[i+1:], x) || !slices.Contains(c, x) {
+			if i > 0 && !impl.LitBefore(s[i-1], x) || !slices.Contains(c, x) {
 				t.Errorf("%v in order is %v", c, s)
 			}
 		}
